@@ -9,6 +9,7 @@ import (
 	"testing"
 
 	"cortege/api"
+	"cortege/sample"
 )
 
 // rows are steps, told shortly: Same, Out and In of each.
@@ -382,19 +383,11 @@ func TestWhatIsHandedInStays(t *testing.T) {
 	}
 }
 
-// spoil changes a list, and what lies in the spare room behind it.
-func spoil[T any](list []T, with T) {
-	list = list[:cap(list)]
-	for i := range list {
-		list[i] = with
-	}
-}
-
 func TestAnswersShareNothing(t *testing.T) {
 	a, b := []int{1, 2, 3}, []int{1, 4, 3, 5}
 	pairs, steps := Pairs(a, b), Steps(a, b)
-	spoil(Pairs(a, b), [2]int{9, 9})
-	spoil(Steps(a, b), api.Step{Same: 9})
+	sample.Spoil(Pairs(a, b), [2]int{9, 9})
+	sample.Spoil(Steps(a, b), api.Step{Same: 9})
 	if !slices.Equal(pairs, [][2]int{{0, 0}, {2, 2}}) || !slices.Equal(rowsOf(steps), rows{{1, 1, 1}, {1, 0, 1}}) {
 		t.Errorf("behind changed answers: %v, %v", pairs, steps)
 	}
@@ -404,10 +397,10 @@ func TestAnswersShareNothing(t *testing.T) {
 		if !ok {
 			t.Errorf("Apply by %v", by)
 		}
-		spoil(second, 9)
+		sample.Spoil(second, 9)
 	}
 	own, _ := Apply(a, a, rows{{3, 0, 0}}.steps())
-	spoil(own, 9)
+	sample.Spoil(own, 9)
 	if !slices.Equal(first, b) || !slices.Equal(a, []int{1, 2, 3}) || !slices.Equal(b, []int{1, 4, 3, 5}) {
 		t.Errorf("behind a changed answer: %v, of %v and %v", first, a, b)
 	}

@@ -10,18 +10,13 @@ import (
 	"testing"
 
 	"cortege/api"
+	"cortege/sample"
 	"cortege/text"
 	"cortege/tree"
 )
 
 // of makes files of paths and data, one behind the other: of("a", "1", "b", "2").
-func of(pathsAndData ...string) []api.File {
-	t := make([]api.File, 0, len(pathsAndData)/2)
-	for i := 0; i+1 < len(pathsAndData); i += 2 {
-		t = append(t, api.File{Path: pathsAndData[i], Data: pathsAndData[i+1]})
-	}
-	return t
-}
+func of(pathsAndData ...string) []api.File { return sample.Files(pathsAndData...) }
 
 // run makes files of one data whose paths begin alike and go on by numbers, from one to ahead of the other.
 func run(beginning string, from, to int, data string) []api.File {
@@ -282,36 +277,6 @@ func TestFilesUnderFilesThatAreUnderFiles(t *testing.T) {
 	}
 }
 
-// noTrees are lists that may not be, each by one thing alone.
-func noTrees() map[string][]api.File {
-	long, most := strings.Repeat("p", api.MaxPath), strings.Repeat("d", api.MaxData)
-	return map[string][]api.File{
-		"paths that fall":                        of("b", "1", "a", "2"),
-		"paths of which the last two fall":       of("a", "1", "c", "2", "b", "3"),
-		"a path twice":                           of("a", "1", "a", "2"),
-		"a file twice":                           of("a", "1", "a", "1"),
-		"a path under another one":               of("a", "1", "a/b", "2"),
-		"a path under one that is not before it": of("a", "1", "a-b", "2", "a/b", "3"),
-		"a path deep under another one":          of("a", "1", "a/b/c", "2"),
-		"the empty path":                         of("", "1"),
-		"a path that is a slash":                 of("/", "1"),
-		"a path with a slash first":              of("/a", "1"),
-		"a path with a slash last":               of("a/", "1"),
-		"a path with two slashes":                of("a//b", "1"),
-		"a path with a byte below the least":     of("a b", "1"),
-		"a path with a byte above the greatest":  of("a\x7f", "1"),
-		"a path with a byte 255":                 of("\xff", "1"),
-		"a last path that is none":               of("a", "1", "b", "2", "c/", "3"),
-		"one file more than MaxFiles":            run("f", 0, api.MaxFiles+1, "1"),
-		"far too many files":                     run("f", 0, 2000, "1"),
-		"a path of one byte more than MaxPath":   of(long+"p", "1"),
-		"a path of far too many bytes":           of(strings.Repeat("p/", 100000)+"p", "1"),
-		"data of one byte more than MaxData":     of("a", most+"d"),
-		"data of far too many bytes":             of("a", strings.Repeat("d", 100000)),
-		"the last data of one byte too many":     of("a", "1", "b", most+"d"),
-	}
-}
-
 func TestNoTrees(t *testing.T) {
 	pairs := [][2][]api.File{
 		{nil, nil},
@@ -320,7 +285,7 @@ func TestNoTrees(t *testing.T) {
 		{of("a", "2"), of("a/b", "3")},
 		{run("f", 0, api.MaxFiles, "2"), run("g", 0, api.MaxFiles, "2")},
 	}
-	for what, bad := range noTrees() {
+	for what, bad := range sample.NoTrees() {
 		for _, p := range append(pairs, [2][]api.File{bad, nil}, [2][]api.File{nil, bad}, [2][]api.File{bad, bad}) {
 			for i, ts := range [][3][]api.File{{bad, p[0], p[1]}, {p[0], bad, p[1]}, {p[0], p[1], bad}} {
 				files, conflicts := Of(ts[0], ts[1], ts[2])
@@ -652,14 +617,6 @@ func TestRandomTreesAgainstTheWords(t *testing.T) {
 	}
 }
 
-// spoil writes over a list and all of its spare room.
-func spoil[T any](l []T, with T) {
-	l = l[:cap(l)]
-	for i := range l {
-		l[i] = with
-	}
-}
-
 // roomy answers a list like l, with room behind it, and the room as a whole.
 func roomy(l []api.File) (handed []api.File, room []api.File) {
 	room = append(slices.Clone(l), of("spare", "1", "a", "2", "spare", "3")...)
@@ -691,9 +648,9 @@ func TestWhatIsHandedInStaysAsItWas(t *testing.T) {
 		kept := slices.Concat(baseRoom, aRoom, bRoom)
 		for _, l := range [][3][]api.File{{base, a, b}, {base, b, a}, {base, a, a}, {base, base, b}, {base, base, base}} {
 			files, conflicts := Of(l[0], l[1], l[2])
-			spoil(files, api.File{Path: "spoilt"})
-			spoil(conflicts, "spoilt")
-			spoil(Virtual(l[0], l[1], l[2]), api.File{Path: "spoilt"})
+			sample.Spoil(files, api.File{Path: "spoilt"})
+			sample.Spoil(conflicts, "spoilt")
+			sample.Spoil(Virtual(l[0], l[1], l[2]), api.File{Path: "spoilt"})
 		}
 		if got := slices.Concat(baseRoom, aRoom, bRoom); !slices.Equal(got, kept) {
 			t.Fatalf("%q, behind all calls: %q", ts, got)
@@ -709,16 +666,16 @@ func TestAnswersShareNothing(t *testing.T) {
 		virtual := Virtual(base, a, b)
 		wantFiles, wantConflicts, wantVirtual := slices.Clone(files), slices.Clone(conflicts), slices.Clone(virtual)
 		moreFiles, moreConflicts := Of(base, a, b)
-		spoil(moreFiles, spoilt)
-		spoil(moreConflicts, "spoilt")
-		spoil(Virtual(base, a, b), spoilt)
+		sample.Spoil(moreFiles, spoilt)
+		sample.Spoil(moreConflicts, "spoilt")
+		sample.Spoil(Virtual(base, a, b), spoilt)
 		for _, l := range [][]api.File{base, a, b} {
-			spoil(l, spoilt)
+			sample.Spoil(l, spoilt)
 		}
 		if !slices.Equal(files, wantFiles) || !slices.Equal(conflicts, wantConflicts) || !slices.Equal(virtual, wantVirtual) {
 			t.Fatalf("of %q, behind a change of all else: %q, %q, %q", ts, files, conflicts, virtual)
 		}
-		spoil(files, spoilt)
+		sample.Spoil(files, spoilt)
 		if !slices.Equal(virtual, wantVirtual) {
 			t.Fatalf("of %q, behind a change of what Of told: %q", ts, virtual)
 		}

@@ -10,17 +10,12 @@ import (
 	"testing"
 
 	"cortege/api"
+	"cortege/sample"
 	"cortege/tree"
 )
 
 // of makes files of paths and data, one behind the other: of("a", "1", "b", "2").
-func of(pathsAndData ...string) []api.File {
-	t := make([]api.File, 0, len(pathsAndData)/2)
-	for i := 0; i+1 < len(pathsAndData); i += 2 {
-		t = append(t, api.File{Path: pathsAndData[i], Data: pathsAndData[i+1]})
-	}
-	return t
-}
+func of(pathsAndData ...string) []api.File { return sample.Files(pathsAndData...) }
 
 // in is a change that puts in a file that was missing.
 func in(path, data string) Change {
@@ -484,14 +479,6 @@ func TestThereAndBackOfRandomTrees(t *testing.T) {
 	}
 }
 
-// spoil writes over a list and all of its spare room.
-func spoil[T any](l []T, with T) {
-	l = l[:cap(l)]
-	for i := range l {
-		l[i] = with
-	}
-}
-
 // roomy answers a list like l, with room behind it that says spare, and the room as a whole.
 func roomy[T any](l []T, spare T) (handed []T, room []T) {
 	room = append(slices.Clone(l), spare, spare, spare)
@@ -505,7 +492,7 @@ func TestWhatIsHandedInStaysAsItWas(t *testing.T) {
 			l, files := roomy(a, api.File{Path: "spare", Data: "1"})
 			m, others := roomy(b, api.File{Path: "spare", Data: "2"})
 			keptFiles, keptOthers := slices.Clone(files), slices.Clone(others)
-			spoil(Of(l, m), Change{Path: "spoilt"})
+			sample.Spoil(Of(l, m), Change{Path: "spoilt"})
 			cs, changes := roomy(append(ofByWords(a, b), Change{Path: "x"}), Change{Path: "spare"})
 			keptChanges := slices.Clone(changes)
 			for n := range len(cs) + 1 {
@@ -513,9 +500,9 @@ func TestWhatIsHandedInStaysAsItWas(t *testing.T) {
 				if !ok {
 					t.Fatalf("Apply of %v to %q", cs[:n], l)
 				}
-				spoil(got, spoilt)
+				sample.Spoil(got, spoilt)
 			}
-			spoil(Turn(cs...), Change{Path: "spoilt"})
+			sample.Spoil(Turn(cs...), Change{Path: "spoilt"})
 			// These do not fit, the one at once, the other behind others that do.
 			Apply(l, Change{Was: true, Is: true, Path: "x", New: "9"})
 			Apply(l, append(slices.Clone(cs), out("x", ""))...)
@@ -538,12 +525,12 @@ func TestAnswersShareNothing(t *testing.T) {
 			repeated, _ := Apply(l, given...)
 			same, _ := Apply(l)
 			wantCs, wantTurned, wantApplied := slices.Clone(cs), slices.Clone(turned), slices.Clone(applied)
-			spoil(l, spoiltFile)
-			spoil(m, spoiltFile)
-			spoil(repeated, spoiltFile)
-			spoil(given, spoiltChange)
-			spoil(again, spoiltChange)
-			spoil(twice, spoiltChange)
+			sample.Spoil(l, spoiltFile)
+			sample.Spoil(m, spoiltFile)
+			sample.Spoil(repeated, spoiltFile)
+			sample.Spoil(given, spoiltChange)
+			sample.Spoil(again, spoiltChange)
+			sample.Spoil(twice, spoiltChange)
 			if !slices.Equal(cs, wantCs) || !slices.Equal(turned, wantTurned) || !slices.Equal(applied, wantApplied) || !slices.Equal(same, a) {
 				t.Fatalf("of %q and %q, behind a change of all else: %v, %v, %q, %q", a, b, cs, turned, applied, same)
 			}

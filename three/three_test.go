@@ -10,6 +10,7 @@ import (
 
 	"cortege/api"
 	"cortege/diff"
+	"cortege/sample"
 )
 
 // lists are those that the chapter's edges name, a byte an element, each with its parts (base, a and b of each, and ! of a Conflict) and what it is merged to.
@@ -423,19 +424,11 @@ func TestListsStayAsTheyWere(t *testing.T) {
 	}
 }
 
-// spoil writes over a list, and over what lies in the spare room behind it.
-func spoil(list []int, with int) {
-	list = list[:cap(list)]
-	for i := range list {
-		list[i] = with
-	}
-}
-
 // wantApart spoils each of the lists with a number of its own, and then looks for another's in it.
 func wantApart(t *testing.T, what string, all [][]int) {
 	t.Helper()
 	for i, l := range all {
-		spoil(l, 1000+i)
+		sample.Spoil(l, 1000+i)
 	}
 	for i, l := range all {
 		for _, x := range l[:cap(l)] {
@@ -498,14 +491,14 @@ func TestChangedAnswersAreNotToldAgain(t *testing.T) {
 			t.Errorf("Parts: %v", parts)
 		}
 		for _, l := range pieces(parts) {
-			spoil(l, 9)
+			sample.Spoil(l, 9)
 		}
 		clear(parts)
 		merged, ok := Merge(base, a, b)
 		if !ok || !slices.Equal(merged, numbers("xabcy")) {
 			t.Errorf("Merge: %v, %v", merged, ok)
 		}
-		spoil(merged, 9)
+		sample.Spoil(merged, 9)
 	}
 }
 

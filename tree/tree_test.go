@@ -10,16 +10,11 @@ import (
 	"testing"
 
 	"cortege/api"
+	"cortege/sample"
 )
 
 // of makes files of paths and data, one behind the other: of("a", "1", "b", "2").
-func of(pathsAndData ...string) []api.File {
-	t := make([]api.File, 0, len(pathsAndData)/2)
-	for i := 0; i+1 < len(pathsAndData); i += 2 {
-		t = append(t, api.File{Path: pathsAndData[i], Data: pathsAndData[i+1]})
-	}
-	return t
-}
+func of(pathsAndData ...string) []api.File { return sample.Files(pathsAndData...) }
 
 // at makes files of paths, each with data of its own.
 func at(paths ...string) []api.File {
@@ -31,13 +26,7 @@ func at(paths ...string) []api.File {
 }
 
 // rising makes n files that are a tree, if there may be so many.
-func rising(n int) []api.File {
-	var t []api.File
-	for i := range n {
-		t = append(t, api.File{Path: fmt.Sprintf("f%05d", i), Data: fmt.Sprint(i)})
-	}
-	return t
-}
+func rising(n int) []api.File { return sample.Rising(n) }
 
 // wild are lists of all kinds, most of them no trees.
 func wild() [][]api.File {
@@ -569,14 +558,6 @@ func TestAllTellsTheFilesAsTheyWere(t *testing.T) {
 	}
 }
 
-// spoil writes over a list and all of its spare room.
-func spoil[T any](l []T, with T) {
-	l = l[:cap(l)]
-	for i := range l {
-		l[i] = with
-	}
-}
-
 func TestListsThatAreHandedInStayAsTheyWere(t *testing.T) {
 	for _, l := range wild() {
 		room := append(slices.Clone(l), of("spare", "1", "a", "2", "spare", "3")...)
@@ -584,13 +565,13 @@ func TestListsThatAreHandedInStayAsTheyWere(t *testing.T) {
 		handed := room[:len(l)]
 		for _, p := range askedPaths() {
 			Get(handed, p)
-			spoil(Put(handed, p, "new"), api.File{Path: "spoilt"})
-			spoil(Drop(handed, p), api.File{Path: "spoilt"})
+			sample.Spoil(Put(handed, p, "new"), api.File{Path: "spoilt"})
+			sample.Spoil(Drop(handed, p), api.File{Path: "spoilt"})
 		}
 		May(handed)
 		Same(handed, handed)
 		ts := [][]api.File{handed, nil, handed, room[:0]}
-		spoil(Paths(ts[:3]...), "spoilt")
+		sample.Spoil(Paths(ts[:3]...), "spoilt")
 		for range All(handed) {
 		}
 		if !slices.Equal(room, kept) {
@@ -610,10 +591,10 @@ func TestAnswersShareNothing(t *testing.T) {
 			drop, twice := Drop(handed, p), Drop(handed, p)
 			paths, more := Paths(handed), Paths(handed)
 			wantPut, wantDrop, wantPaths := slices.Clone(put), slices.Clone(drop), slices.Clone(paths)
-			spoil(handed, api.File{Path: "spoilt"})
-			spoil(again, api.File{Path: "spoilt"})
-			spoil(twice, api.File{Path: "spoilt"})
-			spoil(more, "spoilt")
+			sample.Spoil(handed, api.File{Path: "spoilt"})
+			sample.Spoil(again, api.File{Path: "spoilt"})
+			sample.Spoil(twice, api.File{Path: "spoilt"})
+			sample.Spoil(more, "spoilt")
 			if !slices.Equal(put, wantPut) || !slices.Equal(drop, wantDrop) || !slices.Equal(paths, wantPaths) {
 				t.Errorf("of %q at %q, behind a change of the list and of other answers: %q, %q, %q", l, p, put, drop, paths)
 			}
