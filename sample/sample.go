@@ -1,4 +1,4 @@
-// Package sample makes files that the tests of several packages hand in, and writes over lists that they got.
+// Package sample makes files and commits that the tests of several packages hand in, and writes over lists that they got.
 package sample
 
 import (
