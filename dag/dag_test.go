@@ -3,7 +3,6 @@ package dag
 import (
 	"fmt"
 	"iter"
-	"math"
 	"math/rand"
 	"slices"
 	"sync"
@@ -19,41 +18,8 @@ import (
 const most = 2 * api.MaxCommits
 
 // grown answers a Repo with commits that have these lists of parents.
-func grown(t *testing.T, parents ...[]int) *repo.Repo {
-	t.Helper()
-	r := repo.New(most)
-	if !sample.Fill(r, sample.Commits(parents...)...) {
-		t.Fatalf("the commits with the parents %v can't be put in", parents)
-	}
-	return r
-}
-
-// line makes n commits: each came of the one before it.
-func line(n int) [][]int {
-	var history [][]int
-	for i := range n {
-		history = append(history, slices.Repeat([]int{i}, min(i, 1)))
-	}
-	return history
-}
-
-// ladder makes n commits: each came of the two before it, the nearer one first if that is asked.
-func ladder(n int, nearFirst bool) [][]int {
-	history := line(min(n, 2))
-	for i := 2; i < n; i++ {
-		ps := []int{i - 1, i}
-		if nearFirst {
-			ps = []int{i, i - 1}
-		}
-		history = append(history, ps)
-	}
-	return history
-}
-
-// numbers are those of all commits of a history, and others of which there is no commit.
-func numbers(history [][]int) []int {
-	n := len(history)
-	return append(seq.List(seq.Count(-1, n+3)), -n, n+60, math.MinInt, math.MinInt+1, math.MaxInt-1, math.MaxInt)
+func grown(parents ...[]int) *repo.Repo {
+	return sample.Grown(repo.New(most), parents...)
 }
 
 // want holds what s tells against what is wanted: to its end, left early at each place, and again from the beginning behind that.
@@ -93,20 +59,11 @@ func wantNone(t *testing.T, what string, r *repo.Repo, n int) {
 	if depth := Depth(r, n); depth != 0 {
 		t.Errorf("%s: Depth: %d", what, depth)
 	}
-	for _, other := range append([]int{n, 1, r.Len()}, numbers(nil)...) {
+	for _, other := range append([]int{n, 1, r.Len()}, sample.Numbers(0)...) {
 		if Is(r, n, other) || Is(r, other, n) {
 			t.Errorf("%s: Is, with %d: %v, %v", what, other, Is(r, n, other), Is(r, other, n))
 		}
 	}
-}
-
-// told is a text of all that a Repo tells.
-func told(r *repo.Repo) string {
-	text := fmt.Sprint(r.Len())
-	for n, c := range r.All() {
-		text += fmt.Sprintf(" %d %v %q %q", n, c.Parents, c.Tree, c.Note)
-	}
-	return text
 }
 
 // words answers what the chapter says of a history's commits.
@@ -119,27 +76,6 @@ func (w words) parents(n int) []int {
 		return nil
 	}
 	return w.history[n-1]
-}
-
-// cameOf tells of each number whether the commit n is it, or came of it.
-func (w words) cameOf(n int, seen []bool) []bool {
-	if w.there(n) && !seen[n] {
-		seen[n] = true
-		for _, p := range w.parents(n) {
-			w.cameOf(p, seen)
-		}
-	}
-	return seen
-}
-
-func (w words) ahead(n int) []int {
-	var all []int
-	for m, is := range w.cameOf(n, make([]bool, len(w.history)+1)) {
-		if is {
-			all = append([]int{m}, all...)
-		}
-	}
-	return all
 }
 
 func (w words) depths() map[int]int {
@@ -167,12 +103,12 @@ func (w words) first(n int) []int {
 // wantByWords holds each call over a history, and with each number, against the chapter's words.
 func wantByWords(t *testing.T, history [][]int) {
 	t.Helper()
-	r := grown(t, history...)
-	before := told(r)
+	r := grown(history...)
+	before := sample.Told(r.All())
 	w := words{history}
 	depths := w.depths()
-	for _, n := range numbers(history) {
-		ahead := w.ahead(n)
+	for _, n := range sample.Numbers(len(history)) {
+		ahead := sample.Ahead(history, n)
 		for _, got := range []struct {
 			what string
 			s    iter.Seq[int]
@@ -185,20 +121,20 @@ func wantByWords(t *testing.T, history [][]int) {
 		if d := Depth(r, n); d != depths[n] {
 			t.Errorf("Depth of %d of %v: %d, not %d", n, history, d, depths[n])
 		}
-		for _, a := range numbers(history) {
+		for _, a := range sample.Numbers(len(history)) {
 			if is := Is(r, a, n); is != slices.Contains(ahead, a) {
 				t.Errorf("Is(%d, %d) of %v: %v", a, n, history, is)
 			}
 		}
 	}
-	if told(r) != before {
-		t.Errorf("the Repo was %s, and is %s", before, told(r))
+	if sample.Told(r.All()) != before {
+		t.Errorf("the Repo was %s, and is %s", before, sample.Told(r.All()))
 	}
 }
 
 func TestTheChaptersExample(t *testing.T) {
-	want(t, "Ahead of 3", Ahead(grown(t, nil, nil, []int{2, 1}), 3), 3, 2, 1)
-	want(t, "Ahead of 3", Ahead(grown(t, nil, []int{1}, []int{2, 1}), 3), 3, 2, 1)
+	want(t, "Ahead of 3", Ahead(grown(nil, nil, []int{2, 1}), 3), 3, 2, 1)
+	want(t, "Ahead of 3", Ahead(grown(nil, []int{1}, []int{2, 1}), 3), 3, 2, 1)
 }
 
 // family has one line from 1 by 2, 4, 6, one by 3, 5, two merges of both, and commits beside them.
@@ -222,11 +158,11 @@ func family() [][]int {
 }
 
 func TestParents(t *testing.T) {
-	r := grown(t, family()...)
+	r := grown(family()...)
 	for n, ps := range map[int][]int{1: nil, 2: {1}, 3: {1}, 4: {2}, 7: {3, 6}, 8: {7, 5}, 9: nil, 10: {9}, 11: {10, 8}, 13: {12, 2}, 14: {1, 13}} {
 		want(t, fmt.Sprint("Parents of ", n), Parents(r, n), ps...)
 	}
-	both := grown(t, nil, nil, []int{2, 1}, []int{1, 2}, []int{3, 4}, []int{4, 3})
+	both := grown(nil, nil, []int{2, 1}, []int{1, 2}, []int{3, 4}, []int{4, 3})
 	want(t, "Parents, the greater one first", Parents(both, 3), 2, 1)
 	want(t, "Parents, the lesser one first", Parents(both, 4), 1, 2)
 	want(t, "Parents that are merges, the lesser one first", Parents(both, 5), 3, 4)
@@ -234,7 +170,7 @@ func TestParents(t *testing.T) {
 }
 
 func TestAhead(t *testing.T) {
-	r := grown(t, family()...)
+	r := grown(family()...)
 	for n, all := range map[int][]int{
 		1:  {1},
 		2:  {2, 1},
@@ -251,20 +187,20 @@ func TestAhead(t *testing.T) {
 	} {
 		want(t, fmt.Sprint("Ahead of ", n), Ahead(r, n), all...)
 	}
-	one := grown(t, nil, []int{1}, []int{1}, []int{2, 3}, []int{3, 2})
+	one := grown(nil, []int{1}, []int{1}, []int{2, 3}, []int{3, 2})
 	want(t, "Ahead, two parents that came of one", Ahead(one, 4), 4, 3, 2, 1)
 	want(t, "Ahead, two parents that came of one, the greater first", Ahead(one, 5), 5, 3, 2, 1)
-	other := grown(t, nil, []int{1}, []int{2}, nil, []int{3, 1}, []int{1, 3})
+	other := grown(nil, []int{1}, []int{2}, nil, []int{3, 1}, []int{1, 3})
 	want(t, "Ahead, the second parent came of the first one", Ahead(other, 6), 6, 3, 2, 1)
 	want(t, "Ahead, the first parent came of the second one", Ahead(other, 5), 5, 3, 2, 1)
-	apart := grown(t, nil, nil, nil, nil, nil, []int{5, 2})
+	apart := grown(nil, nil, nil, nil, nil, []int{5, 2})
 	want(t, "Ahead, with others between", Ahead(apart, 6), 6, 5, 2)
 	want(t, "Ahead of one alone", Ahead(apart, 3), 3)
-	want(t, "Ahead of the only one", Ahead(grown(t, nil), 1), 1)
+	want(t, "Ahead of the only one", Ahead(grown(nil), 1), 1)
 }
 
 func TestIs(t *testing.T) {
-	r := grown(t, family()...)
+	r := grown(family()...)
 	for _, c := range []struct {
 		a, b int
 		is   bool
@@ -288,25 +224,25 @@ func TestIs(t *testing.T) {
 }
 
 func TestDepth(t *testing.T) {
-	r := grown(t, family()...)
+	r := grown(family()...)
 	for n, depth := range map[int]int{1: 1, 2: 2, 3: 2, 4: 3, 5: 3, 6: 4, 7: 5, 8: 6, 9: 1, 10: 2, 11: 7, 12: 4, 13: 5, 14: 6} {
 		if d := Depth(r, n); d != depth {
 			t.Errorf("Depth of %d: %d, not %d", n, d, depth)
 		}
 	}
-	unlike := grown(t, nil, []int{1}, []int{2}, nil, []int{3, 4}, []int{4, 3}, []int{3, 1}, []int{1, 3})
+	unlike := grown(nil, []int{1}, []int{2}, nil, []int{3, 4}, []int{4, 3}, []int{3, 1}, []int{1, 3})
 	for n := 5; n <= 8; n++ {
 		if d := Depth(unlike, n); d != 4 {
 			t.Errorf("Depth of %d, of which one parent has depth 3, the other 1: %d", n, d)
 		}
 	}
-	if d := Depth(grown(t, nil), 1); d != 1 {
+	if d := Depth(grown(nil), 1); d != 1 {
 		t.Errorf("Depth of the only one: %d", d)
 	}
 }
 
 func TestFirst(t *testing.T) {
-	r := grown(t, family()...)
+	r := grown(family()...)
 	for n, all := range map[int][]int{
 		1:  {1},
 		2:  {2, 1},
@@ -320,7 +256,7 @@ func TestFirst(t *testing.T) {
 	} {
 		want(t, fmt.Sprint("First of ", n), First(r, n), all...)
 	}
-	both := grown(t, nil, nil, []int{1, 2}, []int{2, 1}, []int{3, 4}, []int{4, 3})
+	both := grown(nil, nil, []int{1, 2}, []int{2, 1}, []int{3, 4}, []int{4, 3})
 	want(t, "First, where the second one is greater", First(both, 3), 3, 1)
 	want(t, "First, where the second one is lesser", First(both, 4), 4, 2)
 	want(t, "First, where the second one is greater, twice", First(both, 5), 5, 3, 1)
@@ -328,7 +264,7 @@ func TestFirst(t *testing.T) {
 }
 
 func TestALineAsLongAsThereIsRoom(t *testing.T) {
-	r := grown(t, line(most)...)
+	r := grown(sample.Line(most)...)
 	var falling []int
 	for n := 1; n <= most; n++ {
 		falling = append([]int{n}, falling...)
@@ -340,14 +276,14 @@ func TestALineAsLongAsThereIsRoom(t *testing.T) {
 	want(t, "First of the last of a line", First(r, most), falling...)
 	want(t, "Ahead of the first of a line", Ahead(r, 1), 1)
 	want(t, "Parents of the last of a line", Parents(r, most), most-1)
-	wantByWords(t, line(most))
+	wantByWords(t, sample.Line(most))
 }
 
 func TestAsManyAsThereIsRoomThatAllHaveTwoParents(t *testing.T) {
 	for _, nearFirst := range []bool{true, false} {
-		history := ladder(most, nearFirst)
+		history := sample.Ladder(most, nearFirst)
 		wantByWords(t, history)
-		r := grown(t, history...)
+		r := grown(history...)
 		if d := Depth(r, most); d != most {
 			t.Errorf("Depth of the last: %d", d)
 		}
@@ -358,16 +294,16 @@ func TestAsManyAsThereIsRoomThatAllHaveTwoParents(t *testing.T) {
 		want(t, "Ahead of the last, left early", seq.Take(Ahead(r, most), 3), most, most-1, most-2)
 	}
 	// Every second one from the last to 2, and 1.
-	if n := len(seq.List(First(grown(t, ladder(most, false)...), most))); n != most/2+1 {
+	if n := len(seq.List(First(grown(sample.Ladder(most, false)...), most))); n != most/2+1 {
 		t.Errorf("First of the last, where the farther one is first, tells %d", n)
 	}
 }
 
 func TestNotThere(t *testing.T) {
-	histories := map[string][][]int{"an empty Repo": nil, "one commit": line(1), "a line": line(5), "a family": family(), "a full Repo": ladder(most, true)}
+	histories := map[string][][]int{"an empty Repo": nil, "one commit": sample.Line(1), "a line": sample.Line(5), "a family": family(), "a full Repo": sample.Ladder(most, true)}
 	for what, history := range histories {
-		r := grown(t, history...)
-		for _, n := range numbers(history) {
+		r := grown(history...)
+		for _, n := range sample.Numbers(len(history)) {
 			if n < 1 || n > len(history) {
 				wantNone(t, what, r, n)
 			}
@@ -380,7 +316,7 @@ func TestNotThere(t *testing.T) {
 }
 
 func TestNilRepo(t *testing.T) {
-	for _, n := range numbers(line(2)) {
+	for _, n := range sample.Numbers(2) {
 		wantNone(t, "a nil Repo", nil, n)
 	}
 }
@@ -408,11 +344,11 @@ func TestRandomHistoriesLeftEarly(t *testing.T) {
 	random := rand.New(rand.NewSource(12))
 	for range 60 {
 		history := sample.History(1+random.Intn(20), random.Intn)
-		r, w := grown(t, history...), words{history}
+		r, w := grown(history...), words{history}
 		for n := range history {
 			what := fmt.Sprintf("%d of %v", n+1, history)
 			want(t, "Parents of "+what, Parents(r, n+1), w.parents(n+1)...)
-			want(t, "Ahead of "+what, Ahead(r, n+1), w.ahead(n+1)...)
+			want(t, "Ahead of "+what, Ahead(r, n+1), sample.Ahead(history, n+1)...)
 			want(t, "First of "+what, First(r, n+1), w.first(n+1)...)
 		}
 	}
@@ -424,7 +360,7 @@ func walks(r *repo.Repo, n int) map[string]iter.Seq[int] {
 }
 
 func TestSequencesInsideThemselves(t *testing.T) {
-	r := grown(t, family()...)
+	r := grown(family()...)
 	for what, s := range walks(r, 11) {
 		all := seq.List(s)
 		var outer []int
@@ -444,7 +380,7 @@ func TestSequencesInsideThemselves(t *testing.T) {
 }
 
 func TestSequencesInsideOneAnother(t *testing.T) {
-	r := grown(t, family()...)
+	r := grown(family()...)
 	for what, outer := range walks(r, 14) {
 		var got []int
 		for n := range outer {
@@ -460,7 +396,7 @@ func TestSequencesInsideOneAnother(t *testing.T) {
 }
 
 func TestTwoSequencesSideBySide(t *testing.T) {
-	r := grown(t, family()...)
+	r := grown(family()...)
 	for what, one := range walks(r, 8) {
 		for name, other := range walks(r, 14) {
 			a, b := seq.List(one), seq.List(other)
@@ -485,7 +421,7 @@ func wantNext(t *testing.T, what string, next func() (int, bool), all []int, i i
 }
 
 func TestOneSequenceTwiceSideBySide(t *testing.T) {
-	for what, s := range walks(grown(t, family()...), 11) {
+	for what, s := range walks(grown(family()...), 11) {
 		all := seq.List(s)
 		next, stop := iter.Pull(s)
 		behind, stopBehind := iter.Pull(s)
@@ -501,9 +437,9 @@ func TestOneSequenceTwiceSideBySide(t *testing.T) {
 
 func TestRepoIsAsItWas(t *testing.T) {
 	history := family()
-	r := grown(t, history...)
-	before := told(r)
-	for _, n := range numbers(history) {
+	r := grown(history...)
+	before := sample.Told(r.All())
+	for _, n := range sample.Numbers(len(history)) {
 		for what, s := range walks(r, n) {
 			for m := range s {
 				Depth(r, m)
@@ -512,8 +448,8 @@ func TestRepoIsAsItWas(t *testing.T) {
 			for range s {
 				break
 			}
-			if told(r) != before {
-				t.Fatalf("behind the calls of %d, and a loop over %s: %s, not %s", n, what, told(r), before)
+			if sample.Told(r.All()) != before {
+				t.Fatalf("behind the calls of %d, and a loop over %s: %s, not %s", n, what, sample.Told(r.All()), before)
 			}
 		}
 	}
@@ -528,7 +464,7 @@ func TestRepoIsAsItWas(t *testing.T) {
 }
 
 func TestRepoThatGrows(t *testing.T) {
-	r := grown(t, nil, nil, []int{2, 1})
+	r := grown(nil, nil, []int{2, 1})
 	there, later := walks(r, 3), walks(r, 4)
 	wanted := map[string][]int{"Parents": {2, 1}, "Ahead": {3, 2, 1}, "First": {3, 2}}
 	for what, s := range there {
@@ -559,16 +495,16 @@ func TestCommitsWithFiles(t *testing.T) {
 	if !sample.Fill(r, c("a"), c("b", 1), c("c", 1), c("d", 3, 2)) {
 		t.Fatal("the commits can't be put in")
 	}
-	before := told(r)
+	before := sample.Told(r.All())
 	want(t, "Ahead of commits with files", Ahead(r, 4), 4, 3, 2, 1)
 	want(t, "First of commits with files", First(r, 4), 4, 3, 1)
-	if Depth(r, 4) != 3 || !Is(r, 2, 4) || told(r) != before {
-		t.Errorf("commits with files: %d, %v, %s", Depth(r, 4), Is(r, 2, 4), told(r))
+	if Depth(r, 4) != 3 || !Is(r, 2, 4) || sample.Told(r.All()) != before {
+		t.Errorf("commits with files: %d, %v, %s", Depth(r, 4), Is(r, 2, 4), sample.Told(r.All()))
 	}
 }
 
 func TestSeveralGoroutines(t *testing.T) {
-	r := grown(t, family()...)
+	r := grown(family()...)
 	shared := Ahead(r, 11)
 	var all sync.WaitGroup
 	for range 8 {

@@ -1,6 +1,8 @@
 package sample
 
 import (
+	"iter"
+	"math"
 	"slices"
 	"strconv"
 
@@ -22,6 +24,30 @@ func Fill(k Keeper, cs ...api.Commit) bool {
 	return true
 }
 
+// Grown answers the empty keeper, with commits put in that have these lists of parents.
+func Grown[K Keeper](k K, parents ...[]int) K {
+	if !Fill(k, Commits(parents...)...) {
+		panic("there are commits that can't be put in")
+	}
+	return k
+}
+
+// Told answers a text of all commits that are told, so that two times can be held against one another.
+func Told(all iter.Seq2[int, api.Commit]) string {
+	text := ""
+	for n, c := range all {
+		text += " " + strconv.Itoa(n) + ":"
+		for _, p := range c.Parents {
+			text += " " + strconv.Itoa(p)
+		}
+		for _, f := range c.Tree {
+			text += " " + strconv.Quote(f.Path) + " " + strconv.Quote(f.Data)
+		}
+		text += " " + strconv.Quote(c.Note)
+	}
+	return text
+}
+
 // Commits answers commits with these lists of parents, that have no files and are told apart by their notes.
 func Commits(parents ...[]int) []api.Commit {
 	var cs []api.Commit
@@ -29,6 +55,57 @@ func Commits(parents ...[]int) []api.Commit {
 		cs = append(cs, api.Commit{Parents: slices.Clone(ps), Note: "n" + strconv.Itoa(i+1)})
 	}
 	return cs
+}
+
+// Line answers the history of n commits, of which each came of the one before it.
+func Line(n int) [][]int {
+	var history [][]int
+	for i := range n {
+		history = append(history, slices.Repeat([]int{i}, min(i, 1)))
+	}
+	return history
+}
+
+// Ladder answers the history of n commits, of which each came of the two before it, the nearer one first if that is asked.
+func Ladder(n int, nearFirst bool) [][]int {
+	history := Line(min(n, 2))
+	for i := 2; i < n; i++ {
+		ps := []int{i - 1, i}
+		if nearFirst {
+			slices.Reverse(ps)
+		}
+		history = append(history, ps)
+	}
+	return history
+}
+
+// Numbers answers the numbers of n commits, and others of which there is none.
+func Numbers(n int) []int {
+	all := []int{-1, -n, n + 1, n + 60, math.MinInt, math.MinInt + 1, math.MaxInt - 1, math.MaxInt}
+	for i := range n + 1 {
+		all = append(all, i)
+	}
+	return all
+}
+
+// Ahead answers the commit n of a history and all that it came of, by falling numbers; none of one that is not there.
+func Ahead(history [][]int, n int) []int {
+	if n < 1 || n > len(history) {
+		return nil
+	}
+	is := make([]bool, n+1)
+	is[n] = true
+	var all []int
+	for m := n; m > 0; m-- {
+		if !is[m] {
+			continue
+		}
+		all = append(all, m)
+		for _, p := range history[m-1] {
+			is[p] = true
+		}
+	}
+	return all
 }
 
 // Histories answers all ways in which n commits may have come of one another: the lists of parents of each.

@@ -2,6 +2,7 @@ package sample
 
 import (
 	"fmt"
+	"math"
 	"math/rand"
 	"slices"
 	"testing"
@@ -84,6 +85,64 @@ func wantHistory(t *testing.T, history [][]int, n int) {
 	for i, ps := range history {
 		if len(ps) > 2 || len(ps) == 2 && ps[0] == ps[1] || slices.ContainsFunc(ps, func(p int) bool { return p < 1 || p > i }) {
 			t.Errorf("the commit %d has the parents %v", i+1, ps)
+		}
+	}
+}
+
+func TestGrown(t *testing.T) {
+	if k := Grown(&counting{room: 2}, nil, []int{1}); k.n != 2 {
+		t.Errorf("Grown by two: %d", k.n)
+	}
+	defer func() {
+		if recover() == nil {
+			t.Error("Grown by two where there is room for one: no panic")
+		}
+	}()
+	Grown(&counting{room: 1}, nil, nil)
+}
+
+func TestTold(t *testing.T) {
+	cs := []api.Commit{{Note: "a b"}, {Parents: []int{2, 1}, Tree: Files("x", "1", "y", "")}}
+	if got := Told(slices.All(cs)); got != ` 0: "a b" 1: 2 1 "x" "1" "y" "" ""` {
+		t.Errorf("Told: %s", got)
+	}
+	if got := Told(slices.All(cs[:0])); got != "" {
+		t.Errorf("Told of none: %s", got)
+	}
+}
+
+func TestLineAndLadder(t *testing.T) {
+	for got, want := range map[string]string{
+		fmt.Sprint(Line(0), Line(1), Line(4)):             "[] [[]] [[] [1] [2] [3]]",
+		fmt.Sprint(Ladder(0, true), Ladder(2, true)):      "[] [[] [1]]",
+		fmt.Sprint(Ladder(4, true), Ladder(4, false)):     "[[] [1] [2 1] [3 2]] [[] [1] [1 2] [2 3]]",
+		fmt.Sprint(Ladder(1, false), Ladder(3, false)):    "[[]] [[] [1] [1 2]]",
+		fmt.Sprint(len(Line(120)), len(Ladder(60, true))): "120 60",
+	} {
+		if got != want {
+			t.Errorf("%s, not %s", got, want)
+		}
+	}
+	wantHistory(t, Line(60), 60)
+	wantHistory(t, Ladder(60, true), 60)
+}
+
+func TestNumbers(t *testing.T) {
+	for n := range 4 {
+		all := Numbers(n)
+		for _, m := range []int{math.MinInt, -1, 0, n, n + 1, math.MaxInt} {
+			if !slices.Contains(all, m) {
+				t.Errorf("Numbers(%d) has no %d", n, m)
+			}
+		}
+	}
+}
+
+func TestAhead(t *testing.T) {
+	history := [][]int{nil, {1}, {1}, {3, 2}, nil, {2, 5}}
+	for n, want := range map[int][]int{-1: nil, 0: nil, 1: {1}, 2: {2, 1}, 3: {3, 1}, 4: {4, 3, 2, 1}, 5: {5}, 6: {6, 5, 2, 1}, 7: nil} {
+		if got := Ahead(history, n); !slices.Equal(got, want) {
+			t.Errorf("Ahead of %d: %v, not %v", n, got, want)
 		}
 	}
 }
