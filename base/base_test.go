@@ -34,48 +34,13 @@ func want(t *testing.T, what string, r *repo.Repo, a, b int, common, best []int)
 	}
 }
 
-// words answers what the chapter says of commits: of each a list of bools, by numbers, that tells which ones it is, or came of.
-type words [][]bool
-
-func wordsOf(history [][]int) words {
-	w := make(words, len(history)+1)
-	for n := range w {
-		w[n] = make([]bool, len(w))
-		for _, m := range sample.Ahead(history, n) {
-			w[n][m] = true
-		}
-	}
-	return w
-}
-
-func (w words) common(a, b int) []int {
-	var all []int
-	for n := range w {
-		if a > 0 && b > 0 && a < len(w) && b < len(w) && w[a][n] && w[b][n] {
-			all = append(all, n)
-		}
-	}
-	return all
-}
-
-func (w words) best(a, b int) []int {
-	common := w.common(a, b)
-	var all []int
-	for _, n := range common {
-		if !slices.ContainsFunc(common, func(m int) bool { return m != n && w[m][n] }) {
-			all = append(all, n)
-		}
-	}
-	return all
-}
-
 // wantByWords holds Common and Best of two against the chapter's words: those of P12.1, and those of P12.2.
-func (w words) wantByWords(t *testing.T, what string, r *repo.Repo, a, b int) {
+func wantByWords(t *testing.T, what string, r *repo.Repo, came sample.Came, a, b int) {
 	t.Helper()
-	common, best := w.common(a, b), w.best(a, b)
+	common, best := came.Common(a, b), came.Best(a, b)
 	want(t, what, r, a, b, common, best)
 	for _, n := range common {
-		if !slices.ContainsFunc(best, func(m int) bool { return w[m][n] }) {
+		if !slices.ContainsFunc(best, func(m int) bool { return came[m][n] }) {
 			t.Errorf("%s: of %d and %d: %d is not ahead of one of %v", what, a, b, n, best)
 		}
 	}
@@ -87,13 +52,13 @@ func (w words) wantByWords(t *testing.T, what string, r *repo.Repo, a, b int) {
 // wantAllByWords holds Common and Best of each two numbers over a history against the chapter's words.
 func wantAllByWords(t *testing.T, history [][]int) {
 	t.Helper()
-	r, w, what := grown(history...), wordsOf(history), fmt.Sprint(history)
+	r, came, what := grown(history...), sample.CameOf(history), fmt.Sprint(history)
 	before := sample.Told(r.All())
 	numbers := sample.Numbers(len(history))
 	for i, a := range numbers {
 		// The two are held either way round.
 		for _, b := range numbers[i:] {
-			w.wantByWords(t, what, r, a, b)
+			wantByWords(t, what, r, came, a, b)
 		}
 	}
 	if after := sample.Told(r.All()); after != before {
@@ -246,37 +211,13 @@ func TestAsManyAsThereIsRoomThatAllHaveTwoParents(t *testing.T) {
 	}
 }
 
-// lattice answers n commits in two columns: each, but the first two, is a merge of the two of the row before it.
-func lattice(n int) [][]int {
-	history := [][]int{nil, nil}
-	for i := 2; i < n; i++ {
-		row := i - i%2
-		ps := []int{row - 1, row}
-		if i%2 == 1 {
-			slices.Reverse(ps)
-		}
-		history = append(history, ps)
-	}
-	return history
-}
-
 func TestAsManyAsThereIsRoomThatAreMergesOfTheSameTwo(t *testing.T) {
-	history := lattice(most)
+	history := sample.Lattice(most)
 	best := []int{most - 3, most - 2}
 	if got := Best(grown(history...), most-1, most); !slices.Equal(got, best) {
 		t.Errorf("Best of the last two: %v, not %v", got, best)
 	}
 	wantAllByWords(t, history)
-}
-
-// taking adds to a history a line of merges that takes in the commits of these numbers, one by one.
-func taking(history [][]int, numbers ...int) [][]int {
-	last := numbers[0]
-	for _, n := range numbers[1:] {
-		history = append(history, []int{last, n})
-		last = len(history)
-	}
-	return history
 }
 
 func TestAsManyBestOnesAsThereIsRoomFor(t *testing.T) {
@@ -285,11 +226,11 @@ func TestAsManyBestOnesAsThereIsRoomFor(t *testing.T) {
 	for n := 1; n <= beginnings; n++ {
 		rising = append(rising, n)
 	}
-	history := taking(make([][]int, beginnings), rising...)
+	history := sample.Taking(make([][]int, beginnings), rising...)
 	first := len(history)
 	falling := slices.Clone(rising)
 	slices.Reverse(falling)
-	history = taking(history, falling...)
+	history = sample.Taking(history, falling...)
 	want(t, "lines of merges", grown(history...), first, len(history), rising, rising)
 	wantAllByWords(t, history)
 }
@@ -336,9 +277,9 @@ func TestRandomHistories(t *testing.T) {
 	}
 	for _, n := range []int{api.MaxCommits, most} {
 		history := sample.History(n, random.Intn)
-		r, w := grown(history...), wordsOf(history)
+		r, came := grown(history...), sample.CameOf(history)
 		for range 600 {
-			w.wantByWords(t, "many commits", r, 1+random.Intn(n), 1+random.Intn(n))
+			wantByWords(t, "many commits", r, came, 1+random.Intn(n), 1+random.Intn(n))
 		}
 	}
 }
@@ -346,23 +287,11 @@ func TestRandomHistories(t *testing.T) {
 func TestRandomHistoriesWithManyBestOnes(t *testing.T) {
 	random := rand.New(rand.NewSource(13))
 	seen := map[int]int{}
-	for range 600 {
-		n := 4 + random.Intn(12)
-		history := sample.History(n, random.Intn)
-		// numbers answers some of those of the first n commits, in any order.
-		numbers := func() []int {
-			all := random.Perm(n)[:2+random.Intn(n-1)]
-			for i := range all {
-				all[i]++
-			}
-			return all
-		}
-		history = taking(history, numbers()...)
-		a := len(history)
-		history = taking(history, numbers()...)
-		r, w := grown(history...), wordsOf(history)
-		w.wantByWords(t, fmt.Sprint(history), r, a, len(history))
-		seen[len(w.best(a, len(history)))]++
+	for range 900 {
+		history, a, b := sample.Crossed(4+random.Intn(12), random.Intn)
+		r, came := grown(history...), sample.CameOf(history)
+		wantByWords(t, fmt.Sprint(history), r, came, a, b)
+		seen[len(came.Best(a, b))]++
 	}
 	if min(seen[1], seen[2], seen[3], seen[4]) < 20 {
 		t.Errorf("pairs by how many best ones they have: %v", seen)

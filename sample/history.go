@@ -26,11 +26,23 @@ func Fill(k Keeper, cs ...api.Commit) bool {
 
 // Grown answers the empty keeper, with commits put in that have these lists of parents.
 func Grown[K Keeper](k K, parents ...[]int) K {
-	if !Fill(k, Commits(parents...)...) {
+	return Kept(k, Commits(parents...)...)
+}
+
+// Kept answers the empty keeper, with these commits put in, each under a note of its own, so that none is like another one.
+func Kept[K Keeper](k K, cs ...api.Commit) K {
+	cs = slices.Clone(cs)
+	for i := range cs {
+		cs[i].Note = note(i + 1)
+	}
+	if !Fill(k, cs...) {
 		panic("there are commits that can't be put in")
 	}
 	return k
 }
+
+// note answers the note of the commit of number n.
+func note(n int) string { return "n" + strconv.Itoa(n) }
 
 // Told answers a text of all commits that are told, so that two times can be held against one another.
 func Told(all iter.Seq2[int, api.Commit]) string {
@@ -48,11 +60,16 @@ func Told(all iter.Seq2[int, api.Commit]) string {
 	return text
 }
 
+// On answers a commit of these files and these parents.
+func On(files []api.File, parents ...int) api.Commit {
+	return api.Commit{Parents: parents, Tree: files}
+}
+
 // Commits answers commits with these lists of parents, that have no files and are told apart by their notes.
 func Commits(parents ...[]int) []api.Commit {
 	var cs []api.Commit
 	for i, ps := range parents {
-		cs = append(cs, api.Commit{Parents: slices.Clone(ps), Note: "n" + strconv.Itoa(i+1)})
+		cs = append(cs, api.Commit{Parents: slices.Clone(ps), Note: note(i + 1)})
 	}
 	return cs
 }
@@ -77,6 +94,52 @@ func Ladder(n int, nearFirst bool) [][]int {
 		history = append(history, ps)
 	}
 	return history
+}
+
+// Lattice answers the history of n commits in two columns: each, but the first two, is a merge of the two of the row ahead of it, and one of each row has them in turned order.
+func Lattice(n int) [][]int {
+	history := make([][]int, min(n, 2))
+	for i := 2; i < n; i++ {
+		ahead := i - i%2
+		ps := []int{ahead - 1, ahead}
+		if i%2 == 1 {
+			slices.Reverse(ps)
+		}
+		history = append(history, ps)
+	}
+	return history
+}
+
+// Taking answers the history with a line of merges behind it that takes in the commits of these numbers, one by one.
+func Taking(history [][]int, numbers ...int) [][]int {
+	history, last := slices.Clone(history), numbers[0]
+	for _, n := range numbers[1:] {
+		history = append(history, []int{last, n})
+		last = len(history)
+	}
+	return history
+}
+
+// Crossed answers a history of n commits, two at least, that pick picks, with two lines of merges behind it that each take in some of these, and the last ones of both lines: these often have many best ones in common.
+func Crossed(n int, pick func(k int) int) (history [][]int, a int, b int) {
+	history = History(n, pick)
+	history = Taking(history, some(n, pick)...)
+	a = len(history)
+	history = Taking(history, some(n, pick)...)
+	return history, a, len(history)
+}
+
+// some answers two of the numbers from 1 to n, or more, in any order, as pick picks.
+func some(n int, pick func(k int) int) []int {
+	all := make([]int, n)
+	for i := range all {
+		all[i] = i + 1
+	}
+	for i := range all {
+		j := i + pick(n-i)
+		all[i], all[j] = all[j], all[i]
+	}
+	return all[:2+pick(n-1)]
 }
 
 // Numbers answers the numbers of n commits, and others of which there is none.

@@ -101,6 +101,31 @@ func TestGrown(t *testing.T) {
 	Grown(&counting{room: 1}, nil, nil)
 }
 
+func TestKept(t *testing.T) {
+	cs := []api.Commit{On(Files("x", "1")), On(nil, 1), On(nil, 1), {Parents: []int{3, 2}, Note: "other"}}
+	k := Kept(&keeping{}, cs...)
+	if got := Told(slices.All(k.cs)); got != ` 0: "x" "1" "n1" 1: 1 "n2" 2: 1 "n3" 3: 3 2 "n4"` {
+		t.Errorf("Kept: %s", got)
+	}
+	if cs[0].Note != "" || cs[3].Note != "other" {
+		t.Errorf("what was handed in: %v", cs)
+	}
+	defer func() {
+		if recover() == nil {
+			t.Error("Kept of two where there is room for one: no panic")
+		}
+	}()
+	Kept(&counting{room: 1}, cs[:2]...)
+}
+
+// keeping is a Keeper of all commits.
+type keeping struct{ cs []api.Commit }
+
+func (k *keeping) Add(c api.Commit) (int, api.Errno) {
+	k.cs = append(k.cs, c)
+	return len(k.cs), api.OK
+}
+
 func TestTold(t *testing.T) {
 	cs := []api.Commit{{Note: "a b"}, {Parents: []int{2, 1}, Tree: Files("x", "1", "y", "")}}
 	if got := Told(slices.All(cs)); got != ` 0: "a b" 1: 2 1 "x" "1" "y" "" ""` {
@@ -125,6 +150,46 @@ func TestLineAndLadder(t *testing.T) {
 	}
 	wantHistory(t, Line(60), 60)
 	wantHistory(t, Ladder(60, true), 60)
+}
+
+func TestLatticeAndTaking(t *testing.T) {
+	for got, want := range map[string]string{
+		fmt.Sprint(Lattice(0), Lattice(1), Lattice(2)):   "[] [[]] [[] []]",
+		fmt.Sprint(Lattice(3), Lattice(6)):               "[[] [] [1 2]] [[] [] [1 2] [2 1] [3 4] [4 3]]",
+		fmt.Sprint(len(Lattice(120)), Lattice(119)[118]): "120 [117 118]",
+		fmt.Sprint(Taking(nil, 1), Taking(Line(2), 2)):   "[] [[] [1]]",
+		fmt.Sprint(Taking(make([][]int, 4), 3, 1, 4)):    "[[] [] [] [] [3 1] [5 4]]",
+	} {
+		if got != want {
+			t.Errorf("%s, not %s", got, want)
+		}
+	}
+	wantHistory(t, Lattice(60), 60)
+	room := make([][]int, 3, 6)
+	one, other := Taking(room, 1, 2), Taking(room, 2, 3)
+	if got := fmt.Sprint(room, one, other); got != "[[] [] []] [[] [] [] [1 2]] [[] [] [] [2 3]]" {
+		t.Errorf("Taking twice behind one history: %s", got)
+	}
+}
+
+func TestCrossed(t *testing.T) {
+	random := rand.New(rand.NewSource(14))
+	taken := map[int]int{}
+	for range 300 {
+		n := 2 + random.Intn(20)
+		history, a, b := Crossed(n, random.Intn)
+		wantHistory(t, history, b)
+		if a <= n || b <= a || b > 3*n-2 {
+			t.Errorf("of %d commits two lines of merges to %d and to %d", n, a, b)
+		}
+		if slices.Contains(Ahead(history, b), a) {
+			t.Errorf("%d came of %d: %v", b, a, history)
+		}
+		taken[a-n+1]++
+	}
+	if taken[2] == 0 || taken[10] == 0 || len(taken) < 15 {
+		t.Errorf("lines by how many they take in: %v", taken)
+	}
 }
 
 func TestNumbers(t *testing.T) {
