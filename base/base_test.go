@@ -4,7 +4,6 @@ import (
 	"fmt"
 	"math/rand"
 	"slices"
-	"sync"
 	"testing"
 
 	"cortege/api"
@@ -367,14 +366,8 @@ func TestCommitsWithFiles(t *testing.T) {
 
 func TestSeveralGoroutines(t *testing.T) {
 	r := grown(merged()...)
-	var all sync.WaitGroup
-	for range 8 {
-		all.Go(func() {
-			for range 20 {
-				want(t, "asked by several", r, 9, 7, []int{1, 2, 3}, []int{2, 3})
-				want(t, "asked by several", r, 4, 9, []int{1, 2, 3, 4}, []int{4})
-			}
-		})
-	}
-	all.Wait()
+	sample.AtOnce(func() {
+		want(t, "asked by several", r, 9, 7, []int{1, 2, 3}, []int{2, 3})
+		want(t, "asked by several", r, 4, 9, []int{1, 2, 3, 4}, []int{4})
+	})
 }

@@ -5,7 +5,6 @@ import (
 	"iter"
 	"math/rand"
 	"slices"
-	"sync"
 	"testing"
 
 	"cortege/api"
@@ -506,18 +505,12 @@ func TestCommitsWithFiles(t *testing.T) {
 func TestSeveralGoroutines(t *testing.T) {
 	r := grown(family()...)
 	shared := Ahead(r, 11)
-	var all sync.WaitGroup
-	for range 8 {
-		all.Go(func() {
-			for range 20 {
-				want(t, "Ahead, shared", shared, 11, 10, 9, 8, 7, 6, 5, 4, 3, 2, 1)
-				want(t, "First", First(r, 8), 8, 7, 3, 1)
-				want(t, "Parents", Parents(r, 7), 3, 6)
-				if Depth(r, 11) != 7 || !Is(r, 5, 11) || Is(r, 9, 8) {
-					t.Error("Depth or Is, asked by several")
-				}
-			}
-		})
-	}
-	all.Wait()
+	sample.AtOnce(func() {
+		want(t, "Ahead, shared", shared, 11, 10, 9, 8, 7, 6, 5, 4, 3, 2, 1)
+		want(t, "First", First(r, 8), 8, 7, 3, 1)
+		want(t, "Parents", Parents(r, 7), 3, 6)
+		if Depth(r, 11) != 7 || !Is(r, 5, 11) || Is(r, 9, 8) {
+			t.Error("Depth or Is, asked by several")
+		}
+	})
 }

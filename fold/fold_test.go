@@ -6,7 +6,6 @@ import (
 	"math/rand"
 	"slices"
 	"strings"
-	"sync"
 	"testing"
 
 	"cortege/api"
@@ -147,11 +146,7 @@ func two(what string, inner, first, second, came, alone []api.File) fold {
 
 // files makes n files of one data, at paths that begin alike.
 func files(beginning string, n int, data string) []api.File {
-	t := sample.Rising(n)
-	for i := range t {
-		t[i] = api.File{Path: beginning + t[i].Path, Data: data}
-	}
-	return t
+	return sample.Alike(beginning, n, data)
 }
 
 // twos are folds of two.
@@ -470,52 +465,25 @@ func TestEachDeep(t *testing.T) {
 	}
 }
 
-// words answers what the chapter says of a history with trees: what it was asked it keeps.
+// words are what the chapter says of a history with trees, and a Repo of it.
 type words struct {
-	came  sample.Came
-	trees [][]api.File
-	known map[[3]int][]api.File
+	*sample.Bases
+	r *repo.Repo
 }
 
-func wordsOf(history [][]int, trees [][]api.File) *words {
-	return &words{sample.CameOf(history), trees, map[[3]int][]api.File{}}
-}
-
-// deep answers Deep by the words.
-func (w *words) deep(a, b, deep int) []api.File {
-	best := w.came.Best(a, b)
-	if deep <= 0 || len(best) == 0 {
-		return nil
-	}
-	asked := [3]int{min(a, b), max(a, b), min(deep, api.MaxDeep)}
-	if l, ok := w.known[asked]; ok {
-		return l
-	}
-	came := w.trees[best[0]-1]
-	for i := 1; i < 3 && i < len(best); i++ {
-		came = join.Virtual(w.deep(best[0], best[i], asked[2]-1), came, w.trees[best[i]-1])
-	}
-	w.known[asked] = came
-	return came
-}
-
-// planted answers a Repo of a history with trees.
-func planted(history [][]int, trees [][]api.File) *repo.Repo {
-	var cs []api.Commit
-	for i, ps := range history {
-		cs = append(cs, on(trees[i], ps...))
-	}
-	return kept(cs...)
+// wordsOf plants a history with trees.
+func wordsOf(history [][]int, trees [][]api.File) words {
+	return words{sample.BasesOf(history, trees, join.Virtual), sample.Planted(repo.New(most), history, trees)}
 }
 
 // wantByWords holds what two tell against the words.
-func (w *words) wantByWords(t *testing.T, what string, r *repo.Repo, a, b int) {
+func (w words) wantByWords(t *testing.T, what string, a, b int) {
 	t.Helper()
-	if got, came := Base(r, a, b), w.deep(a, b, api.MaxDeep); !slices.Equal(got, came) {
+	if got, came := Base(w.r, a, b), w.Base(a, b); !slices.Equal(got, came) {
 		t.Errorf("%s: Base of %d and %d: %q, not %q", what, a, b, got, came)
 	}
 	for deep := range api.MaxDeep + 2 {
-		wantDeep(t, what, r, a, b, deep, w.deep(a, b, deep))
+		wantDeep(t, what, w.r, a, b, deep, w.Deep(a, b, deep))
 	}
 }
 
@@ -524,10 +492,10 @@ func TestAllShortHistories(t *testing.T) {
 	for n := range 6 {
 		for _, history := range sample.Histories(n) {
 			trees := sample.Trees(history, random.Intn)
-			r, w := planted(history, trees), wordsOf(history, trees)
+			w := wordsOf(history, trees)
 			for b := range n + 1 {
 				for a := range b {
-					w.wantByWords(t, fmt.Sprint(history, trees), r, a+1, b)
+					w.wantByWords(t, fmt.Sprint(history, trees), a+1, b)
 				}
 			}
 		}
@@ -540,38 +508,20 @@ func TestRandomHistories(t *testing.T) {
 	for range 400 {
 		history, a, b := sample.Crossed(2+random.Intn(14), random.Intn)
 		trees := sample.Trees(history, random.Intn)
-		r, w := planted(history, trees), wordsOf(history, trees)
-		what, before := fmt.Sprint(history, trees), sample.Told(r.All())
-		w.wantByWords(t, what, r, a, b)
+		w := wordsOf(history, trees)
+		what, before := fmt.Sprint(history, trees), sample.Told(w.r.All())
+		w.wantByWords(t, what, a, b)
 		for range 20 {
-			w.wantByWords(t, what, r, 1+random.Intn(b), 1+random.Intn(b))
+			w.wantByWords(t, what, 1+random.Intn(b), 1+random.Intn(b))
 		}
-		if after := sample.Told(r.All()); after != before {
+		if after := sample.Told(w.r.All()); after != before {
 			t.Errorf("the Repo was %s, and is %s", before, after)
 		}
-		seen[len(w.came.Best(a, b))]++
+		seen[len(w.Best(a, b))]++
 	}
 	if min(seen[1], seen[2], seen[3], seen[4]) < 8 {
 		t.Errorf("pairs by how many best ones they have: %v", seen)
 	}
-}
-
-// rows answers rows of merges that cross, as many as a Repo has room for: each row has so many lines of merges, and each line takes in all last ones of the row ahead, in any order. It tells the last ones of the last row, too.
-func rows(wide int, random *rand.Rand) (history [][]int, last []int) {
-	for i := range wide {
-		history, last = append(history, nil), append(last, i+1)
-	}
-	for len(history)+wide*(wide-1) <= most {
-		var next []int
-		for range wide {
-			numbers := slices.Clone(last)
-			random.Shuffle(wide, func(i, j int) { numbers[i], numbers[j] = numbers[j], numbers[i] })
-			history = sample.Taking(history, numbers...)
-			next = append(next, len(history))
-		}
-		last = next
-	}
-	return history, last
 }
 
 func TestRowsThatCross(t *testing.T) {
@@ -579,22 +529,22 @@ func TestRowsThatCross(t *testing.T) {
 	unlike := make([]int, api.MaxDeep)
 	for i := range 15 {
 		wide := 2 + i%3
-		history, last := rows(wide, random)
+		history, last := sample.Rows(wide, most, random.Intn)
 		trees := sample.Trees(history, random.Intn)
-		r, w := planted(history, trees), wordsOf(history, trees)
+		w := wordsOf(history, trees)
 		what := fmt.Sprintf("rows of %d, the time %d", wide, i)
 		for j, b := range last {
 			for _, a := range last[:j] {
-				w.wantByWords(t, what, r, a, b)
+				w.wantByWords(t, what, a, b)
 				for deep := range unlike {
-					if !tree.Same(Deep(r, a, b, deep), Deep(r, a, b, deep+1)) {
+					if !tree.Same(Deep(w.r, a, b, deep), Deep(w.r, a, b, deep+1)) {
 						unlike[deep]++
 					}
 				}
 			}
 		}
 		for range 15 {
-			w.wantByWords(t, what, r, 1+random.Intn(len(history)), 1+random.Intn(len(history)))
+			w.wantByWords(t, what, 1+random.Intn(len(history)), 1+random.Intn(len(history)))
 		}
 	}
 	if slices.Min(unlike) < 8 {
@@ -604,38 +554,24 @@ func TestRowsThatCross(t *testing.T) {
 
 func TestFullRepos(t *testing.T) {
 	random := rand.New(rand.NewSource(16))
-	for _, history := range [][][]int{sample.Line(most), sample.Ladder(most, true), sample.Ladder(most, false), sample.Lattice(most), sample.History(most, random.Intn)} {
+	for _, history := range sample.Full(most, random.Intn) {
 		trees := sample.Trees(history, random.Intn)
-		r, w := planted(history, trees), wordsOf(history, trees)
-		w.wantByWords(t, "the last two", r, most-1, most)
-		w.wantByWords(t, "the first one and the last one", r, 1, most)
-		w.wantByWords(t, "the last one and itself", r, most, most)
+		w := wordsOf(history, trees)
+		w.wantByWords(t, "the last two", most-1, most)
+		w.wantByWords(t, "the first one and the last one", 1, most)
+		w.wantByWords(t, "the last one and itself", most, most)
 		for range 80 {
-			w.wantByWords(t, "many commits", r, 1+random.Intn(most), 1+random.Intn(most))
+			w.wantByWords(t, "many commits", 1+random.Intn(most), 1+random.Intn(most))
 		}
 	}
 }
 
 func TestFullReposOfTreesAsGreatAsMayBe(t *testing.T) {
 	random := rand.New(rand.NewSource(17))
-	// Each file has as many lines as may be told apart, one of them changed.
-	great := func() []api.File {
-		l := sample.Rising(api.MaxFiles)
-		for i := range l {
-			lines := slices.Repeat([]string{"line\n"}, api.MaxLines)
-			lines[random.Intn(api.MaxLines)] = string(byte('a'+random.Intn(26))) + "\n"
-			l[i].Data = strings.Join(lines, "")
-		}
-		return l
-	}
-	history, last := rows(3, random)
-	var trees [][]api.File
-	for range history {
-		trees = append(trees, great())
-	}
-	r, w := planted(history, trees), wordsOf(history, trees)
-	w.wantByWords(t, "great trees", r, last[0], last[1])
-	w.wantByWords(t, "great trees", r, last[1], last[2])
+	history, last := sample.Rows(3, most, random.Intn)
+	w := wordsOf(history, sample.Great(len(history), random.Intn))
+	w.wantByWords(t, "great trees", last[0], last[1])
+	w.wantByWords(t, "great trees", last[1], last[2])
 }
 
 func TestNotThere(t *testing.T) {
@@ -738,15 +674,9 @@ func TestRepoThatGrows(t *testing.T) {
 func TestSeveralGoroutines(t *testing.T) {
 	r := kept(crossing(of("f", "0", "g", "1"), 5)...)
 	wanted := fmt.Sprint(asked(r))
-	var all sync.WaitGroup
-	for range 8 {
-		all.Go(func() {
-			for range 20 {
-				if got := fmt.Sprint(asked(r)); got != wanted {
-					t.Errorf("asked by several: %s, not %s", got, wanted)
-				}
-			}
-		})
-	}
-	all.Wait()
+	sample.AtOnce(func() {
+		if got := fmt.Sprint(asked(r)); got != wanted {
+			t.Errorf("asked by several: %s, not %s", got, wanted)
+		}
+	})
 }

@@ -41,6 +41,15 @@ func Kept[K Keeper](k K, cs ...api.Commit) K {
 	return k
 }
 
+// Planted answers the empty keeper, with the commits of a history put in, each with its tree.
+func Planted[K Keeper](k K, history [][]int, trees [][]api.File) K {
+	var cs []api.Commit
+	for i, ps := range history {
+		cs = append(cs, On(trees[i], ps...))
+	}
+	return Kept(k, cs...)
+}
+
 // note answers the note of the commit of number n.
 func note(n int) string { return "n" + strconv.Itoa(n) }
 
@@ -110,6 +119,11 @@ func Lattice(n int) [][]int {
 	return history
 }
 
+// Full answers histories of n commits, of each kind one.
+func Full(n int, pick func(k int) int) [][][]int {
+	return [][][]int{Line(n), Ladder(n, true), Ladder(n, false), Lattice(n), History(n, pick)}
+}
+
 // Taking answers the history with a line of merges behind it that takes in the commits of these numbers, one by one.
 func Taking(history [][]int, numbers ...int) [][]int {
 	history, last := slices.Clone(history), numbers[0]
@@ -129,17 +143,40 @@ func Crossed(n int, pick func(k int) int) (history [][]int, a int, b int) {
 	return history, a, len(history)
 }
 
+// Rows answers rows of merges that cross, for as long as there is room: each row has so many lines of merges, and each line takes in all last ones of the row ahead, in any order, as pick picks. It tells the last ones of the last row, too.
+func Rows(wide, room int, pick func(k int) int) (history [][]int, last []int) {
+	history = make([][]int, wide)
+	for i := range wide {
+		last = append(last, i+1)
+	}
+	for len(history)+wide*(wide-1) <= room {
+		var next []int
+		for range wide {
+			history = Taking(history, shuffled(last, pick)...)
+			next = append(next, len(history))
+		}
+		last = next
+	}
+	return history, last
+}
+
 // some answers two of the numbers from 1 to n, or more, in any order, as pick picks.
 func some(n int, pick func(k int) int) []int {
 	all := make([]int, n)
 	for i := range all {
 		all[i] = i + 1
 	}
-	for i := range all {
-		j := i + pick(n-i)
-		all[i], all[j] = all[j], all[i]
+	return shuffled(all, pick)[:2+pick(n-1)]
+}
+
+// shuffled answers the numbers in any order, as pick picks.
+func shuffled(numbers []int, pick func(k int) int) []int {
+	numbers = slices.Clone(numbers)
+	for i := range numbers {
+		j := i + pick(len(numbers)-i)
+		numbers[i], numbers[j] = numbers[j], numbers[i]
 	}
-	return all[:2+pick(n-1)]
+	return numbers
 }
 
 // Numbers answers the numbers of n commits, and others of which there is none.

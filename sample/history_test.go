@@ -118,6 +118,17 @@ func TestKept(t *testing.T) {
 	Kept(&counting{room: 1}, cs[:2]...)
 }
 
+func TestPlanted(t *testing.T) {
+	history := [][]int{nil, {1}, {2, 1}}
+	k := Planted(&keeping{}, history, [][]api.File{Files("x", "1"), nil, Files("y", "2")})
+	if got := Told(slices.All(k.cs)); got != ` 0: "x" "1" "n1" 1: 1 "n2" 2: 2 1 "y" "2" "n3"` {
+		t.Errorf("Planted: %s", got)
+	}
+	if k := Planted(&keeping{}, nil, nil); len(k.cs) != 0 {
+		t.Errorf("Planted of no commits: %v", k.cs)
+	}
+}
+
 // keeping is a Keeper of all commits.
 type keeping struct{ cs []api.Commit }
 
@@ -189,6 +200,49 @@ func TestCrossed(t *testing.T) {
 	}
 	if taken[2] == 0 || taken[10] == 0 || len(taken) < 15 {
 		t.Errorf("lines by how many they take in: %v", taken)
+	}
+}
+
+func TestRows(t *testing.T) {
+	random := rand.New(rand.NewSource(16))
+	seen := map[string]int{}
+	for wide := 2; wide <= 5; wide++ {
+		row := wide * (wide - 1)
+		for room := wide; room <= 60; room++ {
+			history, last := Rows(wide, room, random.Intn)
+			wantHistory(t, history, wide+(room-wide)/row*row)
+			came := CameOf(history)
+			for i, a := range last {
+				if len(last) != wide || i > 0 && a-last[i-1] != max(1, min(wide-1, len(history)-wide)) {
+					t.Errorf("rows of %d in %d: the last ones %v", wide, room, last)
+				}
+				for _, b := range last[:i] {
+					if best := came.Best(a, b); len(history) > wide && len(best) != wide {
+						t.Errorf("rows of %d in %d: %d and %d have the best ones %v", wide, room, b, a, best)
+					}
+				}
+			}
+			if len(history) > wide {
+				seen[fmt.Sprint(history[wide])]++
+			}
+		}
+	}
+	if len(seen) < 12 {
+		t.Errorf("the first merge by its parents: %v", seen)
+	}
+}
+
+func TestFull(t *testing.T) {
+	random := rand.New(rand.NewSource(17))
+	for _, n := range []int{0, 1, 2, 60} {
+		seen := map[string]int{}
+		for _, history := range Full(n, random.Intn) {
+			wantHistory(t, history, n)
+			seen[fmt.Sprint(history)]++
+		}
+		if n == 60 && len(seen) != 5 {
+			t.Errorf("Full has %d kinds", len(seen))
+		}
 	}
 }
 

@@ -4,6 +4,7 @@ package sample
 import (
 	"strconv"
 	"strings"
+	"sync"
 
 	"cortege/api"
 )
@@ -24,6 +25,15 @@ func Rising(n int) []api.File {
 		data := strconv.Itoa(i)
 		// Paths rise by bytes, and so by numbers of one length alone.
 		t = append(t, api.File{Path: "f" + strings.Repeat("0", max(5-len(data), 0)) + data, Data: data})
+	}
+	return t
+}
+
+// Alike answers n files of one data, at paths that begin alike.
+func Alike(beginning string, n int, data string) []api.File {
+	t := Rising(n)
+	for i := range t {
+		t[i] = api.File{Path: beginning + t[i].Path, Data: data}
 	}
 	return t
 }
@@ -64,4 +74,17 @@ func Spoil[T any](list []T, with T) {
 	for i := range list {
 		list[i] = with
 	}
+}
+
+// AtOnce does it again and again, by several goroutines.
+func AtOnce(do func()) {
+	var all sync.WaitGroup
+	for range 8 {
+		all.Go(func() {
+			for range 20 {
+				do()
+			}
+		})
+	}
+	all.Wait()
 }

@@ -2,6 +2,7 @@ package sample
 
 import (
 	"slices"
+	"sync"
 	"testing"
 
 	"cortege/api"
@@ -51,5 +52,28 @@ func TestNoTrees(t *testing.T) {
 		if tree.May(files) {
 			t.Errorf("a tree: %s", what)
 		}
+	}
+}
+
+func TestAlike(t *testing.T) {
+	got := Alike("a", 3, "x")
+	if !slices.Equal(got, Files("af00000", "x", "af00001", "x", "af00002", "x")) {
+		t.Errorf("Alike: %q", got)
+	}
+	if got := Alike("a", 0, "x"); len(got) != 0 {
+		t.Errorf("Alike of none: %q", got)
+	}
+}
+
+func TestAtOnce(t *testing.T) {
+	var lock sync.Mutex
+	n := 0
+	AtOnce(func() {
+		lock.Lock()
+		defer lock.Unlock()
+		n++
+	})
+	if n != 160 {
+		t.Errorf("AtOnce did it %d times", n)
 	}
 }

@@ -3,6 +3,7 @@ package sample
 import (
 	"slices"
 	"strconv"
+	"strings"
 
 	"cortege/api"
 )
@@ -50,4 +51,66 @@ func changed(t []api.File, pick func(k int) int) []api.File {
 func changedData(data string, pick func(k int) int) string {
 	at := 4 * pick(3)
 	return data[:at] + strconv.Itoa(pick(4)) + data[at+1:]
+}
+
+// Gathered answers a tree for each commit of a history, as pick picks: some commits set a line of a file, or leave a file out, and each has what became of that by itself and by all that it came of. Two such trees often go together.
+func Gathered(history [][]int, pick func(k int) int) [][]api.File {
+	set := make([]func(data string) string, len(history)+1)
+	at := make([]int, len(set))
+	for n := range set {
+		at[n], set[n] = pick(api.MaxFiles), picked(pick)
+	}
+	var trees [][]api.File
+	for n := range history {
+		var files [api.MaxFiles]string
+		ahead := Ahead(history, n+1)
+		slices.Reverse(ahead)
+		for _, m := range ahead {
+			files[at[m]] = set[m](files[at[m]])
+		}
+		trees = append(trees, filled(files[:]))
+	}
+	return trees
+}
+
+// picked answers what a commit of Gathered does to data, of which no bytes stand for a file that is missing.
+func picked(pick func(k int) int) func(data string) string {
+	kind, line, digit := pick(8), 4*pick(3), strconv.Itoa(1+pick(2))
+	return func(data string) string {
+		switch {
+		case kind < 3:
+			return data
+		case kind == 3:
+			return ""
+		case data == "":
+			data = "0\n-\n0\n-\n0\n"
+		}
+		return data[:line] + digit + data[line+1:]
+	}
+}
+
+// filled answers the files of these data that are not missing, by rising paths.
+func filled(data []string) []api.File {
+	var files []api.File
+	for i, f := range Rising(len(data)) {
+		if data[i] != "" {
+			files = append(files, api.File{Path: f.Path, Data: data[i]})
+		}
+	}
+	return files
+}
+
+// Great answers n trees of as many files as may be. Each file has as many lines as may be told apart, one of them as pick picks.
+func Great(n int, pick func(k int) int) [][]api.File {
+	var trees [][]api.File
+	for range n {
+		t := Rising(api.MaxFiles)
+		for i := range t {
+			lines := slices.Repeat([]string{"line\n"}, api.MaxLines)
+			lines[pick(api.MaxLines)] = string(byte('a'+pick(26))) + "\n"
+			t[i].Data = strings.Join(lines, "")
+		}
+		trees = append(trees, t)
+	}
+	return trees
 }
